@@ -193,6 +193,12 @@ func leastHalf(digits int, sum int) string {
 	return text
 }
 
+// digitsOf writes a number with zeros in front, so that it has at least so many digits.
+func digitsOf(number int, digits int) string {
+	text := strconv.Itoa(number)
+	return strings.Repeat("0", max(0, digits-len(text))) + text
+}
+
 // IsTicket reports whether a text is a ticket.
 func IsTicket(ticket string) bool {
 	return isTicketSize(len(ticket)) && isDigits(ticket)
@@ -330,11 +336,11 @@ func TicketOfNumber(digits int, n int) (string, bool) {
 	if !isTicketSize(digits) || n < 0 {
 		return "", false
 	}
-	text := strconv.Itoa(n)
+	text := digitsOf(n, digits)
 	if len(text) > digits {
 		return "", false
 	}
-	return strings.Repeat("0", digits-len(text)) + text, true
+	return text, true
 }
 
 // TurnTicket returns the ticket told from its end.
