@@ -73,34 +73,16 @@ func (t readTicket) isEverySecond() bool {
 	return halves{halfOf(first.String()), halfOf(second.String())}.areAlike()
 }
 
-func (t readTicket) number() int {
-	number := 0
-	for i := range len(t.text) {
-		number = number*10 + int(t.text[i]-'0')
-	}
-	return number
-}
+func (t readTicket) number() int { return numberIn(t.text) }
 
-func (t readTicket) turned() string {
-	var turned strings.Builder
-	for i := range len(t.text) {
-		turned.WriteByte(t.text[len(t.text)-1-i])
-	}
-	return turned.String()
-}
+func (t readTicket) turned() string { return turned(t.text) }
 
 func (t readTicket) swapped() string {
 	middle := len(t.text) / 2
 	return t.text[middle:] + t.text[:middle]
 }
 
-func (t readTicket) nines() string {
-	var nines strings.Builder
-	for i := range len(t.text) {
-		nines.WriteByte('0' + '9' - t.text[i])
-	}
-	return nines.String()
-}
+func (t readTicket) nines() string { return nines(t.text) }
 
 func (t readTicket) luckyDigits() []int {
 	last := int(t.text[len(t.text)-1] - '0')
@@ -197,6 +179,31 @@ func leastHalf(digits int, sum int) string {
 func digitsOf(number int, digits int) string {
 	text := strconv.Itoa(number)
 	return strings.Repeat("0", max(0, digits-len(text))) + text
+}
+
+// numberIn reads what digitsOf writes.
+func numberIn(text string) int {
+	number := 0
+	for i := range len(text) {
+		number = number*10 + int(text[i]-'0')
+	}
+	return number
+}
+
+func turned(text string) string {
+	var turned strings.Builder
+	for i := range len(text) {
+		turned.WriteByte(text[len(text)-1-i])
+	}
+	return turned.String()
+}
+
+func nines(text string) string {
+	var nines strings.Builder
+	for i := range len(text) {
+		nines.WriteByte('0' + '9' - text[i])
+	}
+	return nines.String()
 }
 
 // IsTicket reports whether a text is a ticket.
